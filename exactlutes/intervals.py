@@ -46,14 +46,47 @@ def is_interval(x):
     return [1 if has_interval_form(x) else 0]
 
 
+def lowest_terms(five):
+    """1 and the five numbers of the interval that is the ratio told by five, d from 1 on; [0] if there is none."""
+    factor = common_factor(five)
+    # The ranges hold for the lowest terms alone: 198/2 is the power 99, which may be.
+    lowest = [number // factor for number in five]
+    if not in_ranges(lowest):
+        return [0]
+    return [1] + lowest
+
+
 def of(a, b, c, e, d):
     """1 and the five numbers of the interval that is this ratio, or [0] if there is none."""
     if d < 1:
         return [0]
-    told = [a, b, c, e, d]
-    factor = common_factor(told)
-    # The ranges hold for the lowest terms alone: 198/2 is the power 99, which may be.
-    lowest = [number // factor for number in told]
-    if not in_ranges(lowest):
+    return lowest_terms([a, b, c, e, d])
+
+
+def both_intervals(x, y):
+    """Whether two lists of whole numbers are both intervals."""
+    return has_interval_form(x) and has_interval_form(y)
+
+
+def product(x, y):
+    """Five numbers that tell x's ratio times y's, in whatever terms and of whatever size."""
+    return [x[k] * y[4] + y[k] * x[4] for k in range(4)] + [x[4] * y[4]]
+
+
+def quotient(x, y):
+    """Five numbers that tell x's ratio by y's, in whatever terms and of whatever size."""
+    return [x[k] * y[4] - y[k] * x[4] for k in range(4)] + [x[4] * y[4]]
+
+
+def add(x, y):
+    """1 and the five numbers of x's ratio times y's, or [0] if there is no such interval."""
+    if not both_intervals(x, y):
         return [0]
-    return [1] + lowest
+    return lowest_terms(product(x, y))
+
+
+def sub(x, y):
+    """1 and the five numbers of x's ratio by y's, or [0] if there is no such interval."""
+    if not both_intervals(x, y):
+        return [0]
+    return lowest_terms(quotient(x, y))

@@ -12,6 +12,23 @@ from unittest import mock
 from exactlutes import intervals
 
 PACKAGE = pathlib.Path(intervals.__file__).parent
+ARGUMENTS = {
+    "is_interval": ["x"],
+    "of": ["a", "b", "c", "e", "d"],
+    "add": ["x", "y"],
+    "sub": ["x", "y"],
+}
+# Arguments that are answered and such as are refused, for each call.
+CALLS = (
+    ("is_interval", ([7, 0, 0, 0, 12],)),
+    ("is_interval", ([],)),
+    ("of", (14, 0, 0, 0, 24)),
+    ("of", (1, 0, 0, 0, 0)),
+    ("add", ([7, 0, 0, 0, 12], [-1, 1, 0, 0, 1])),
+    ("add", ([7, 0, 0, 0, 12], [])),
+    ("sub", ([7, 0, 0, 0, 12], [-1, 1, 0, 0, 1])),
+    ("sub", ([], [7, 0, 0, 0, 12])),
+)
 PYTHONS_OWN = set(
     "len range enumerate zip min max sum abs sorted reversed int str bool list tuple dict set frozenset "
     "isinstance ord repr any all divmod".split()
@@ -26,9 +43,18 @@ def trees():
     return [(path, ast.parse(path.read_text("ascii"))) for path in sorted(PACKAGE.glob("*.py"))]
 
 
+def call_all():
+    for name, arguments in CALLS:
+        getattr(intervals, name)(*arguments)
+
+
 class Interface(unittest.TestCase):
+    def test_every_call_is_tried_here(self):
+        self.assertEqual({name for name, arguments in CALLS}, set(ARGUMENTS))
+
     def test_names_and_arguments(self):
-        for function, names in ((intervals.is_interval, ["x"]), (intervals.of, ["a", "b", "c", "e", "d"])):
+        for name, names in ARGUMENTS.items():
+            function = getattr(intervals, name)
             parameters = inspect.signature(function).parameters.values()
             self.assertEqual([parameter.name for parameter in parameters], names)
             for parameter in parameters:
@@ -39,16 +65,12 @@ class Interface(unittest.TestCase):
         refuse = mock.Mock(side_effect=AssertionError("something is read"))
         with contextlib.redirect_stdout(out), contextlib.redirect_stderr(out):
             with mock.patch("builtins.open", refuse), mock.patch("sys.stdin", None):
-                intervals.is_interval([7, 0, 0, 0, 12])
-                intervals.is_interval([])
-                intervals.of(14, 0, 0, 0, 24)
-                intervals.of(1, 0, 0, 0, 0)
+                call_all()
         self.assertEqual(out.getvalue(), "")
 
     def test_nothing_is_kept(self):
         before = {name: repr(value) for name, value in vars(intervals).items() if name != "__builtins__"}
-        intervals.is_interval([7, 0, 0, 0, 12])
-        intervals.of(14, 0, 0, 0, 24)
+        call_all()
         after = {name: repr(value) for name, value in vars(intervals).items() if name != "__builtins__"}
         self.assertEqual(after, before)
 

@@ -1,23 +1,8 @@
 import itertools
 import unittest
-from fractions import Fraction
 
 from exactlutes.intervals import is_interval, of
-from support import GREATEST, LEAST, check_answer
-
-
-def ratio(five):
-    """What tells one ratio from another: the powers of 2, 3, 5 and 7."""
-    return tuple(Fraction(power, five[4]) for power in five[:4])
-
-
-def interval_of_powers(powers):
-    """The answer that the document asks for, found from the fractions' own lowest terms."""
-    for d in range(1, 25):
-        five = [power * d for power in powers] + [d]
-        if all(power.denominator == 1 and abs(power) <= 99 for power in five[:4]):
-            return [1] + [int(number) for number in five]
-    return [0]
+from support import GREATEST, LEAST, check_answer, interval_of_powers, ratio
 
 
 class Of(unittest.TestCase):
