@@ -90,3 +90,17 @@ def sub(x, y):
     if not both_intervals(x, y):
         return [0]
     return lowest_terms(quotient(x, y))
+
+
+def times(n, x):
+    """1 and the five numbers of x's ratio to the power n, or [0] if there is no such interval."""
+    if not has_interval_form(x):
+        return [0]
+    return lowest_terms([n * x[k] for k in range(4)] + [x[4]])
+
+
+def part(n, x):
+    """1 and the five numbers of the interval of which n are x, or [0] if there is none."""
+    if n < 1 or not has_interval_form(x):
+        return [0]
+    return lowest_terms([x[k] for k in range(4)] + [n * x[4]])

@@ -67,6 +67,11 @@ def check_second_call(case, function, arguments, expected):
     check_answer(case, function(*arguments), expected)
 
 
+def opposite(x):
+    """What is put upon x to get the unison."""
+    return [-power for power in x[:4]] + [x[4]]
+
+
 def ratio(five):
     """What tells one ratio from another: the powers of 2, 3, 5 and 7."""
     return tuple(Fraction(power, five[4]) for power in five[:4])

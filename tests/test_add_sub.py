@@ -4,12 +4,8 @@ import unittest
 from exactlutes.intervals import add, is_interval, sub
 from support import (
     EQUAL_FIFTH, FIFTH, INTERVALS, NO_INTERVALS, OCTAVE, UNISON, GuardedList, check_answer, check_second_call,
-    interval_of_powers, ratio,
+    interval_of_powers, opposite, ratio,
 )
-
-
-def opposite(x):
-    return [-power for power in x[:4]] + [x[4]]
 
 
 def expected_sum(x, y):

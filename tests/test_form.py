@@ -17,6 +17,8 @@ ARGUMENTS = {
     "of": ["a", "b", "c", "e", "d"],
     "add": ["x", "y"],
     "sub": ["x", "y"],
+    "times": ["n", "x"],
+    "part": ["n", "x"],
 }
 # Arguments that are answered and such as are refused, for each call.
 CALLS = (
@@ -28,6 +30,10 @@ CALLS = (
     ("add", ([7, 0, 0, 0, 12], [])),
     ("sub", ([7, 0, 0, 0, 12], [-1, 1, 0, 0, 1])),
     ("sub", ([], [7, 0, 0, 0, 12])),
+    ("times", (3, [7, 0, 0, 0, 12])),
+    ("times", (3, [])),
+    ("part", (7, [7, 0, 0, 0, 12])),
+    ("part", (0, [7, 0, 0, 0, 12])),
 )
 PYTHONS_OWN = set(
     "len range enumerate zip min max sum abs sorted reversed int str bool list tuple dict set frozenset "
