@@ -7,6 +7,7 @@ An interval is a list of five whole numbers a, b, c, e, d. It stands for the rat
 NUMBERS_OF_AN_INTERVAL = 5
 GREATEST_POWER = 99
 GREATEST_D = 24
+MOST_PARTS = 1200
 
 
 def greatest_divisor(m, n):
@@ -104,3 +105,74 @@ def part(n, x):
     if n < 1 or not has_interval_form(x):
         return [0]
     return lowest_terms([x[k] for k in range(4)] + [n * x[4]])
+
+
+def series_bounds(k, scale):
+    """Two whole numbers; scale times (1/k + 1/(3 k^3) + 1/(5 k^5) + ..) lies between them. k is from 3 on."""
+    total = 0
+    odd = 1
+    count = 0
+    power = scale // k
+    while power > 0:
+        total = total + power // odd
+        odd = odd + 2
+        count = count + 1
+        power = power // (k * k)
+    # Each summand was cut by less than 1, and what comes behind the last is less than 1 altogether.
+    return [total, total + count + 1]
+
+
+def logarithm_bounds(weights, scale):
+    """Two whole numbers; scale times half the logarithm of 2^w (3/2)^x (5/4)^y (8/7)^z lies between them."""
+    low = 0
+    high = 0
+    # Twice the series of k is the logarithm of (k + 1)/(k - 1).
+    for weight, k in zip(weights, (3, 5, 9, 15)):
+        bounds = series_bounds(k, scale)
+        low = low + weight * (bounds[0] if weight > 0 else bounds[1])
+        high = high + weight * (bounds[1] if weight > 0 else bounds[0])
+    return [low, high]
+
+
+def side_of_unison(five):
+    """-1, 0 or 1: whether the ratio that five tells is below 1, just 1 or above it. d counts for nothing here."""
+    # 2, 3, 5 and 7 are primes, so whole powers of them make 1 in no other way than this.
+    if five[:4] == [0, 0, 0, 0]:
+        return 0
+    weights = [five[0] + five[1] + 2 * five[2] + 3 * five[3], five[1], five[2], -five[3]]
+    scale = 2 ** 32
+    bounds = logarithm_bounds(weights, scale)
+    # Only bounds on one side of 0 decide. As the ratio isn't 1, finer ones come to lie so.
+    while bounds[0] <= 0 <= bounds[1]:
+        scale = scale * scale
+        bounds = logarithm_bounds(weights, scale)
+    return 1 if bounds[0] > 0 else -1
+
+
+def order(x, y):
+    """[0] if x is narrower than y, [1] if they are the same, [2] if x is wider; [-1] if one is no interval."""
+    if not both_intervals(x, y):
+        return [-1]
+    return [1 + side_of_unison(quotient(x, y))]
+
+
+def whole_parts(n, x):
+    """The greatest whole number m such that m of n equal parts of an octave don't go beyond the interval x."""
+    # 3 is less than 4, and 5 and 7 are less than 8: no interval is as wide as this many octaves.
+    widest = (1 + 2 + 3 + 3) * GREATEST_POWER
+    fitting = -widest * n
+    beyond = widest * n
+    while beyond - fitting > 1:
+        middle = (fitting + beyond) // 2
+        if side_of_unison(quotient(x, [middle, 0, 0, 0, n])) < 0:
+            beyond = middle
+        else:
+            fitting = middle
+    return fitting
+
+
+def parts(n, x):
+    """0 and how many n-th parts of an octave don't go beyond x; [-1] if n isn't from 1 to 1200 or x is no interval."""
+    if not 1 <= n <= MOST_PARTS or not has_interval_form(x):
+        return [-1]
+    return [0, whole_parts(n, x)]

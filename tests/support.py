@@ -1,5 +1,6 @@
 """What several tests share."""
 
+import math
 from fractions import Fraction
 
 LEAST = -2147483648
@@ -84,3 +85,29 @@ def interval_of_powers(powers):
         if all(power.denominator == 1 and abs(power) <= 99 for power in five[:4]):
             return [1] + [int(number) for number in five]
     return [0]
+
+
+def whole_power_ratio(powers):
+    """The ratio of 2, 3, 5 and 7 to these whole powers, as two whole numbers, however large they are."""
+    over = under = 1
+    for base, power in zip((2, 3, 5, 7), powers):
+        if power > 0:
+            over *= base ** power
+        else:
+            under *= base ** -power
+    return over, under
+
+
+def exact_side(powers):
+    """-1, 0 or 1: whether 2, 3, 5 and 7 to these powers (fractions) make less than 1, just 1 or more."""
+    d = math.lcm(*[power.denominator for power in powers])
+    over, under = whole_power_ratio([int(power * d) for power in powers])
+    return (over > under) - (over < under)
+
+
+def exact_parts(n, x):
+    """The greatest m such that m of n parts of an octave don't go beyond x, by the whole numbers themselves."""
+    over, under = whole_power_ratio([n * power for power in x[:4]])
+    octaves = over.bit_length() - under.bit_length()
+    fits = over >= under << octaves if octaves >= 0 else over << -octaves >= under
+    return (octaves if fits else octaves - 1) // x[4]

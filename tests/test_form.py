@@ -19,6 +19,8 @@ ARGUMENTS = {
     "sub": ["x", "y"],
     "times": ["n", "x"],
     "part": ["n", "x"],
+    "order": ["x", "y"],
+    "parts": ["n", "x"],
 }
 # Arguments that are answered and such as are refused, for each call.
 CALLS = (
@@ -34,6 +36,10 @@ CALLS = (
     ("times", (3, [])),
     ("part", (7, [7, 0, 0, 0, 12])),
     ("part", (0, [7, 0, 0, 0, 12])),
+    ("order", ([7, 0, 0, 0, 12], [-1, 1, 0, 0, 1])),
+    ("order", ([], [7, 0, 0, 0, 12])),
+    ("parts", (1200, [-1, 1, 0, 0, 1])),
+    ("parts", (1201, [-1, 1, 0, 0, 1])),
 )
 PYTHONS_OWN = set(
     "len range enumerate zip min max sum abs sorted reversed int str bool list tuple dict set frozenset "
