@@ -8,6 +8,7 @@ NUMBERS_OF_AN_INTERVAL = 5
 GREATEST_POWER = 99
 GREATEST_D = 24
 MOST_PARTS = 1200
+MOST_TO_CHOOSE_FROM = 256
 
 
 def greatest_divisor(m, n):
@@ -139,6 +140,7 @@ def side_of_unison(five):
     # 2, 3, 5 and 7 are primes, so whole powers of them make 1 in no other way than this.
     if five[:4] == [0, 0, 0, 0]:
         return 0
+    # 3 is 2 times 3/2, 5 is 4 times 5/4, and 7 is 8 by 8/7.
     weights = [five[0] + five[1] + 2 * five[2] + 3 * five[3], five[1], five[2], -five[3]]
     scale = 2 ** 32
     bounds = logarithm_bounds(weights, scale)
@@ -176,3 +178,39 @@ def parts(n, x):
     if not 1 <= n <= MOST_PARTS or not has_interval_form(x):
         return [-1]
     return [0, whole_parts(n, x)]
+
+
+def within(x):
+    """1 and the five numbers of x less so many octaves that it is from 1 to below 2; [0] if there is none."""
+    if not has_interval_form(x):
+        return [0]
+    return lowest_terms(quotient(x, [whole_parts(1, x), 0, 0, 0, 1]))
+
+
+def distance(x, y):
+    """Five numbers that tell what lies between x and y: the one's ratio by the other's, whichever is no less than 1."""
+    between = quotient(x, y)
+    return between if side_of_unison(between) >= 0 else quotient(y, x)
+
+
+def all_intervals(lists):
+    """Whether each of these lists of whole numbers is an interval."""
+    for x in lists:
+        if not has_interval_form(x):
+            return False
+    return True
+
+
+def near(x, l):
+    """The number (from 0) of the first one in l that is nearest to x; [-1] if it is refused."""
+    if not 1 <= len(l) <= MOST_TO_CHOOSE_FROM or not has_interval_form(x) or not all_intervals(l):
+        return [-1]
+    nearest = 0
+    least = distance(x, l[0])
+    for number, y in enumerate(l):
+        between = distance(x, y)
+        # Of as near ones the first stays, so only a lesser distance counts.
+        if side_of_unison(quotient(between, least)) < 0:
+            nearest = number
+            least = between
+    return [nearest]

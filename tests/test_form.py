@@ -21,6 +21,8 @@ ARGUMENTS = {
     "part": ["n", "x"],
     "order": ["x", "y"],
     "parts": ["n", "x"],
+    "within": ["x"],
+    "near": ["x", "l"],
 }
 # Arguments that are answered and such as are refused, for each call.
 CALLS = (
@@ -40,6 +42,10 @@ CALLS = (
     ("order", ([], [7, 0, 0, 0, 12])),
     ("parts", (1200, [-1, 1, 0, 0, 1])),
     ("parts", (1201, [-1, 1, 0, 0, 1])),
+    ("within", ([0, 1, 0, 0, 1],)),
+    ("within", ([0, 99, 0, 0, 1],)),
+    ("near", ([-1, 1, 0, 0, 1], [[1, 0, 0, 0, 1], [7, 0, 0, 0, 12]])),
+    ("near", ([-1, 1, 0, 0, 1], [])),
 )
 PYTHONS_OWN = set(
     "len range enumerate zip min max sum abs sorted reversed int str bool list tuple dict set frozenset "
