@@ -4,11 +4,22 @@ An interval is a list of five whole numbers a, b, c, e, d. It stands for the rat
 2^(a/d) times 3^(b/d) times 5^(c/d) times 7^(e/d). Every answer is a new list of whole numbers.
 """
 
+BASES = (2, 3, 5, 7)
 NUMBERS_OF_AN_INTERVAL = 5
 GREATEST_POWER = 99
 GREATEST_D = 24
 MOST_PARTS = 1200
 MOST_TO_CHOOSE_FROM = 256
+
+MOST_BYTES = 64
+MOST_DIGITS = 4
+BLANK = 32
+MINUS = 45
+SLASH = 47
+ZERO = 48
+ONE = 49
+NINE = 57
+CARET = 94
 
 
 def greatest_divisor(m, n):
@@ -214,3 +225,125 @@ def near(x, l):
             nearest = number
             least = between
     return [nearest]
+
+
+def factor_text(base, power, d):
+    """The text of base to the power of power/d, which isn't 0."""
+    divisor = greatest_divisor(power, d)
+    top = power // divisor
+    bottom = d // divisor
+    if bottom > 1:
+        return f"{base}^{top}/{bottom}"
+    return f"{base}^{top}" if top != 1 else f"{base}"
+
+
+def interval_text(x):
+    """The text of an interval."""
+    factors = [factor_text(base, power, x[4]) for base, power in zip(BASES, x) if power != 0]
+    return " ".join(factors) if len(factors) > 0 else "1"
+
+
+def print_text(x):
+    """How many bytes the text of x has, then these; [-1] if x is no interval."""
+    if not has_interval_form(x):
+        return [-1]
+    text = interval_text(x)
+    return [len(text)] + [ord(sign) for sign in text]
+
+
+def byte_at(t, place):
+    """The byte at this place of t, or -1, which is no byte, if t has no more."""
+    return t[place] if place < len(t) else -1
+
+
+def digit_at(t, place):
+    """Whether a decimal digit stands at this place of t."""
+    return ZERO <= byte_at(t, place) <= NINE
+
+
+def read_digits(t, place):
+    """1, the place behind the digits that begin here, and their number; or 0 and the place of the fault."""
+    end = place
+    number = 0
+    while digit_at(t, end) and end - place < MOST_DIGITS and (end == place or number > 0):
+        number = 10 * number + t[end] - ZERO
+        end = end + 1
+    # A digit that's left is one too many, or stands behind a 0 that begins the number.
+    if end == place or digit_at(t, end):
+        return [0, end]
+    return [1, end, number]
+
+
+def read_whole(t, place):
+    """Like read_digits, but a minus sign may stand in front, though not of a 0."""
+    if byte_at(t, place) != MINUS:
+        return read_digits(t, place)
+    if byte_at(t, place + 1) == ZERO:
+        return [0, place + 1]
+    told = read_digits(t, place + 1)
+    return [1, told[1], -told[2]] if told[0] == 1 else told
+
+
+def read_power(t, place):
+    """1, the place behind the power that begins here, and the one number or two that tell it; or 0 and the fault."""
+    top = read_whole(t, place)
+    if top[0] == 0 or byte_at(t, top[1]) != SLASH:
+        return top
+    bottom = read_digits(t, top[1] + 1)
+    return [1, bottom[1], top[2], bottom[2]] if bottom[0] == 1 else bottom
+
+
+def rightly_told(power):
+    """Whether a power, one number or two, is told as it must be: not 0 nor 1, a fraction in lowest terms."""
+    if len(power) == 1:
+        return power[0] != 0 and power[0] != 1
+    return power[1] >= 2 and greatest_divisor(power[0], power[1]) == 1
+
+
+def read_factor(t, place):
+    """1, the place behind the factor that begins here, and its power's one number or two; or 0 and the fault."""
+    if byte_at(t, place) - ZERO not in BASES:
+        return [0, place]
+    if byte_at(t, place + 1) != CARET:
+        return [1, place + 1, 1]
+    told = read_power(t, place + 2)
+    if told[0] == 1 and not rightly_told(told[2:]):
+        return [0, place]
+    return told
+
+
+def read_factors(t):
+    """1 and five numbers that tell the ratio of all the factors, in whatever terms; or 0 and the fault."""
+    five = [0, 0, 0, 0, 1]
+    place = 0
+    last = 0
+    while True:
+        factor = read_factor(t, place)
+        if factor[0] == 0:
+            return factor
+        base = t[place] - ZERO
+        if base <= last:
+            return [0, place]
+        power = [0, 0, 0, 0, factor[3] if len(factor) == 4 else 1]
+        power[BASES.index(base)] = factor[2]
+        five = product(five, power)
+        last = base
+        place = factor[1]
+        if place == len(t):
+            return [1] + five
+        if t[place] != BLANK:
+            return [0, place]
+        place = place + 1
+
+
+def read(t):
+    """1 and the five numbers of the interval whose text t is; or 0 and the place where t is at fault."""
+    if len(t) > MOST_BYTES:
+        return [0, MOST_BYTES]
+    if byte_at(t, 0) == ONE:
+        return [1, 0, 0, 0, 0, 1] if len(t) == 1 else [0, 1]
+    told = read_factors(t)
+    if told[0] == 0:
+        return told
+    answer = lowest_terms(told[1:])
+    return answer if answer[0] == 1 else [0, len(t)]

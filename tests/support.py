@@ -105,6 +105,12 @@ def exact_side(powers):
     return (over > under) - (over < under)
 
 
+def exact_distance(x, y):
+    """The powers (fractions) of what lies between x and y: the one's ratio by the other's, no less than 1."""
+    powers = [p - q for p, q in zip(ratio(x), ratio(y))]
+    return powers if exact_side(powers) >= 0 else [-power for power in powers]
+
+
 def exact_parts(n, x):
     """The greatest m such that m of n parts of an octave don't go beyond x, by the whole numbers themselves."""
     over, under = whole_power_ratio([n * power for power in x[:4]])

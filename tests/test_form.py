@@ -23,6 +23,8 @@ ARGUMENTS = {
     "parts": ["n", "x"],
     "within": ["x"],
     "near": ["x", "l"],
+    "print_text": ["x"],
+    "read": ["t"],
 }
 # Arguments that are answered and such as are refused, for each call.
 CALLS = (
@@ -46,6 +48,10 @@ CALLS = (
     ("within", ([0, 99, 0, 0, 1],)),
     ("near", ([-1, 1, 0, 0, 1], [[1, 0, 0, 0, 1], [7, 0, 0, 0, 12]])),
     ("near", ([-1, 1, 0, 0, 1], [])),
+    ("print_text", ([-19, 12, 0, 0, 12],)),
+    ("print_text", ([],)),
+    ("read", ([50, 94, 55, 47, 49, 50],)),
+    ("read", ([50, 94],)),
 )
 PYTHONS_OWN = set(
     "len range enumerate zip min max sum abs sorted reversed int str bool list tuple dict set frozenset "

@@ -4,7 +4,7 @@ import unittest
 from exactlutes.intervals import add, near, order, sub
 from support import (
     EQUAL_FIFTH, FIFTH, GREATEST, INTERVALS, LEAST, NO_INTERVALS, OCTAVE, UNISON, GuardedList, check_answer,
-    check_second_call, exact_side, opposite, ratio,
+    check_second_call, exact_distance, exact_side, opposite,
 )
 
 # x, the nearer one and the farther one, which lie on x's two sides and as far from it, but for less than a ten million
@@ -30,11 +30,6 @@ NEARLY_AT_ONE_PLACE = [
 def steps(numbers):
     """So many equal semitones each."""
     return [[number, 0, 0, 0, 12] for number in numbers]
-
-
-def exact_distance(x, y):
-    powers = [p - q for p, q in zip(ratio(x), ratio(y))]
-    return powers if exact_side(powers) >= 0 else [-power for power in powers]
 
 
 def expected_near(x, lists):

@@ -7,7 +7,9 @@ from support import (
     check_second_call, interval_of_powers, opposite, ratio,
 )
 
-NUMBERS = (LEAST, LEAST + 1, -1000000, -100, -99, -24, -2, -1, 0, 1, 2, 3, 24, 25, 99, 100, 1200, GREATEST - 1, GREATEST)
+NUMBERS = (
+    LEAST, LEAST + 1, -1000000, -100, -99, -24, -2, -1, 0, 1, 2, 3, 24, 25, 99, 100, 1200, GREATEST - 1, GREATEST,
+)
 
 
 def expected_times(n, x):
